@@ -1,6 +1,10 @@
 package impl
 
-import "strings"
+import (
+	"iter"
+	"slices"
+	"strings"
+)
 
 // MaxPairs is the largest number of pairs of a word.
 const MaxPairs = 9
@@ -51,23 +55,41 @@ func WordsOf(n int) []string {
 	if n < 0 || n > MaxList {
 		return nil
 	}
-	return appendWords(nil, "", 0, n)
+	none := func(beginning) bool { return false }
+	return slices.Collect(wordsBut(n, none))
 }
 
-// appendWords appends all words that begin with head, of which open pairs are
-// open and left pairs have not begun.
-func appendWords(words []string, head string, open int, left int) []string {
-	if open == 0 && left == 0 {
-		return append(words, head)
+// beginning is the first part of a word, after which open pairs are open and
+// left pairs have not begun.
+type beginning struct {
+	text string
+	open int
+	left int
+}
+
+// wordsBut gives out, in order, all words of so many pairs but those with a
+// beginning that cut reports. A beginning is shown to cut ahead of all longer
+// ones, and those of a beginning that is cut are not shown.
+func wordsBut(n int, cut func(beginning) bool) iter.Seq[string] {
+	return func(yield func(string) bool) {
+		giveWords(beginning{left: n}, cut, yield)
+	}
+}
+
+// giveWords gives out the words with a beginning, and reports whether more
+// words are wanted.
+func giveWords(b beginning, cut func(beginning) bool, yield func(string) bool) bool {
+	if cut(b) {
+		return true
+	}
+	if b.open == 0 && b.left == 0 {
+		return yield(b.text)
 	}
 	// The words ascend because ( is a lesser byte than ).
-	if left > 0 {
-		words = appendWords(words, head+"(", open+1, left-1)
+	if b.left > 0 && !giveWords(beginning{b.text + "(", b.open + 1, b.left - 1}, cut, yield) {
+		return false
 	}
-	if open > 0 {
-		words = appendWords(words, head+")", open-1, left)
-	}
-	return words
+	return b.open == 0 || giveWords(beginning{b.text + ")", b.open - 1, b.left}, cut, yield)
 }
 
 // DepthsOf returns the depth of each node.
