@@ -71,15 +71,7 @@ func cutPolygon(s string, first int) [][]int {
 	if s == "" {
 		return nil
 	}
-	end, depth := 0, 0
-	for i := range len(s) {
-		depth += map[byte]int{'(': 1, ')': -1}[s[i]]
-		if depth == 0 {
-			end = i
-			break
-		}
-	}
-	within, behind := s[1:end], s[end+1:]
+	within, behind := cutWord(s)
 	middle := first + len(within)/2 + 1
 	rows := [][]int{{first, middle, first + len(s)/2 + 1}}
 	rows = append(rows, cutPolygon(within, first)...)

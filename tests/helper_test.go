@@ -37,6 +37,18 @@ func balanced(s string) bool {
 	return s == ""
 }
 
+// cutWord returns what is in the first pair of a word, and what is behind it.
+func cutWord(s string) (string, string) {
+	depth := 0
+	for i := range len(s) {
+		depth += map[byte]int{'(': 1, ')': -1}[s[i]]
+		if depth == 0 {
+			return s[1:i], s[i+1:]
+		}
+	}
+	return "", ""
+}
+
 // bracketTexts returns all texts of so many brackets, byte by byte.
 func bracketTexts(length int) []string {
 	texts := make([]string, 0, 1<<length)
