@@ -334,6 +334,40 @@ func TestLeavesOf(t *testing.T) {
 	}
 }
 
+// Promise 87: depths are ways to roots.
+func TestDepthsAreWaysToRoots(t *testing.T) {
+	for _, s := range allWords() {
+		together := 0
+		for _, depth := range impl.DepthsOf(s) {
+			together += depth
+		}
+		if pairs := nodesInOthers(s); together != pairs {
+			t.Fatalf("DepthsOf(%q) are together %d, but %d pairs of nodes are in each other", s, together, pairs)
+		}
+		ways := make([]int, len(s)/2)
+		steps := 0
+		for node, parent := range impl.ParentsOf(s) {
+			if parent >= 0 {
+				ways[node] = ways[parent] + 1
+			}
+			steps += ways[node]
+		}
+		if together != steps {
+			t.Fatalf("DepthsOf(%q) are together %d, but %d steps lead to the roots", s, together, steps)
+		}
+	}
+}
+
+// nodesInOthers returns how many pairs of nodes of a word there are, of which
+// one is in the other one.
+func nodesInOthers(s string) int {
+	if s == "" {
+		return 0
+	}
+	within, behind := cutWord(s)
+	return len(within)/2 + nodesInOthers(within) + nodesInOthers(behind)
+}
+
 func TestWordResultsAreNew(t *testing.T) {
 	s := "(()())()"
 	clear(impl.DepthsOf(s))

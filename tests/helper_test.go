@@ -1,6 +1,7 @@
 package tests
 
 import (
+	"slices"
 	"strings"
 
 	"loop.example/shapesoftrees/impl"
@@ -81,4 +82,77 @@ func allWords() []string {
 		words = append(words, wordsByTrying(n)...)
 	}
 	return words
+}
+
+// copyRows returns a copy of rows that shares no memory with them.
+func copyRows(rows [][]int) [][]int {
+	var list [][]int
+	for _, row := range rows {
+		list = append(list, slices.Clone(row))
+	}
+	return list
+}
+
+// rowEdges returns the tree of n nodes in a row, each one beside the next one.
+func rowEdges(n int) [][]int {
+	var edges [][]int
+	for node := range n - 1 {
+		edges = append(edges, []int{node, node + 1})
+	}
+	return edges
+}
+
+// starEdges returns the tree of n nodes around one of them.
+func starEdges(n int, center int) [][]int {
+	var edges [][]int
+	for node := range n {
+		if node != center {
+			edges = append(edges, []int{min(node, center), max(node, center)})
+		}
+	}
+	return edges
+}
+
+// treesByTrying returns all trees of n nodes, without the help of the program:
+// of all sets of edges between two nodes those that have one fewer than nodes,
+// each of which joins two parts.
+func treesByTrying(n int) [][][]int {
+	if n < 1 {
+		return nil
+	}
+	parts := make([]int, n)
+	for node := range parts {
+		parts[node] = node
+	}
+	var all [][]int
+	for a := range n {
+		for b := a + 1; b < n; b++ {
+			all = append(all, []int{a, b})
+		}
+	}
+	return joinParts(parts, nil, all, n-1)
+}
+
+// joinParts returns all trees of some edges and so many of others, each of
+// which joins two parts.
+func joinParts(parts []int, edges [][]int, others [][]int, missing int) [][][]int {
+	if missing == 0 {
+		return [][][]int{copyRows(edges)}
+	}
+	var trees [][][]int
+	for i, row := range others {
+		kept, lost := parts[row[0]], parts[row[1]]
+		if kept == lost {
+			continue
+		}
+		joined := slices.Clone(parts)
+		for node, part := range joined {
+			if part == lost {
+				joined[node] = kept
+			}
+		}
+		longer := append(slices.Clone(edges), row)
+		trees = append(trees, joinParts(joined, longer, others[i+1:], missing-1)...)
+	}
+	return trees
 }
