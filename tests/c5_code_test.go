@@ -434,12 +434,8 @@ func TestTreeResultsAreNew(t *testing.T) {
 }
 
 func TestTreeArgumentsStayAsTheyAre(t *testing.T) {
-	// The last numbers of the rows and of the list are spare capacity.
 	all := [][]int{{0, 1, 9}, {0, 2, 9}, {2, 3, 9}, {8, 9}}
-	var edges [][]int
-	for _, row := range all {
-		edges = append(edges, row[:2])
-	}
+	edges := firstTwos(all)
 	before := fmt.Sprint(all, edges)
 	for length := range edges {
 		impl.ValidTree(4, edges[:length])

@@ -481,12 +481,8 @@ func TestSpanResultsAreNew(t *testing.T) {
 }
 
 func TestWebArgumentsStayAsTheyAre(t *testing.T) {
-	// The last numbers of the rows and of the list are spare capacity.
 	all := [][]int{{2, 1, 9}, {0, 2, 9}, {1, 1, 9}, {2, 1, 9}, {1, 0, 9}, {5, 9}, {}}
-	var edges [][]int
-	for _, row := range all {
-		edges = append(edges, row[:min(len(row), 2)])
-	}
+	edges := firstTwos(all)
 	before := fmt.Sprint(all, edges)
 	for length := range edges {
 		for n := range 4 {

@@ -93,6 +93,16 @@ func copyRows(rows [][]int) [][]int {
 	return list
 }
 
+// firstTwos returns the first two numbers of each row; all behind them is spare
+// capacity, so that a function that writes past the end of a row is found out.
+func firstTwos(rows [][]int) [][]int {
+	var list [][]int
+	for _, row := range rows {
+		list = append(list, row[:min(len(row), 2)])
+	}
+	return list
+}
+
 // rowEdges returns the tree of n nodes in a row, each one beside the next one.
 func rowEdges(n int) [][]int {
 	var edges [][]int
