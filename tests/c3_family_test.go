@@ -372,8 +372,7 @@ func TestAStackGivesNoBadThree(t *testing.T) {
 	}
 }
 
-// Every row of numbers without a bad three comes from a stack, and no other
-// row does.
+// Promise 18: rows without a bad three come from a stack, and no other row does.
 func TestOnlyRowsWithoutABadThreeComeFromAStack(t *testing.T) {
 	for n := range impl.MaxPairs + 1 {
 		found := 0
