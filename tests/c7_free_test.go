@@ -140,9 +140,8 @@ func factorial(n int) int {
 	return n * factorial(n-1)
 }
 
-// centersByWays returns what CentersOf should, by how far all nodes are from
-// each other.
-func centersByWays(n int, edges [][]int) []int {
+// waysBetween returns, for each node, how many edges the way to each node has.
+func waysBetween(n int, edges [][]int) [][]int {
 	far := make([][]int, n)
 	for a := range far {
 		far[a] = slices.Repeat([]int{n}, n)
@@ -158,6 +157,13 @@ func centersByWays(n int, edges [][]int) []int {
 			}
 		}
 	}
+	return far
+}
+
+// centersByWays returns what CentersOf should, by how far all nodes are from
+// each other.
+func centersByWays(n int, edges [][]int) []int {
+	far := waysBetween(n, edges)
 	slices.SortFunc(far, func(a, b []int) int { return slices.Max(a) - slices.Max(b) })
 	var centers []int
 	for _, ways := range far {
